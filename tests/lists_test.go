@@ -1,6 +1,7 @@
 package tests
 
 import (
+	"encoding/hex"
 	"fmt"
 	"math"
 	"regexp"
@@ -30,25 +31,29 @@ func wantList(text string, width int) impl.List {
 	return l
 }
 
+// formPatterns are the patterns of forms, by their width.
+var formPatterns = func() (patterns [impl.MaxWidth + 1]*regexp.Regexp) {
+	for width := range patterns {
+		line := "[0-9a-f]{" + strconv.Itoa(2*width) + "}\n"
+		patterns[width] = regexp.MustCompile(`\Asize (0|[1-9][0-9]{0,3})` + "\n(" + line + `)*\z`)
+	}
+	return patterns
+}()
+
 // wantRead reads a form by a pattern.
 func wantRead(s string, width int) (impl.List, bool) {
 	if width < 1 || width > impl.MaxWidth {
 		return impl.List{}, false
 	}
-	line := "[0-9a-f]{" + strconv.Itoa(2*width) + "}\n"
-	if !regexp.MustCompile(`\Asize (0|[1-9][0-9]{0,3})` + "\n(" + line + `)*\z`).MatchString(s) {
+	if !formPatterns[width].MatchString(s) {
 		return impl.List{}, false
 	}
 	lines := strings.Split(s, "\n")
 	l := impl.List{}
 	l.Size, _ = strconv.Atoi(lines[0][len("size "):])
 	for _, digits := range lines[1 : len(lines)-1] {
-		sum := ""
-		for i := 0; i < len(digits); i += 2 {
-			b, _ := strconv.ParseUint(digits[i:i+2], 16, 8)
-			sum += string([]byte{byte(b)})
-		}
-		l.Sums = append(l.Sums, sum)
+		sum, _ := hex.DecodeString(digits)
+		l.Sums = append(l.Sums, string(sum))
 	}
 	if l.Size > impl.MaxThing || len(l.Sums) > impl.MaxPieces {
 		return impl.List{}, false
