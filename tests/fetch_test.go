@@ -350,10 +350,7 @@ func TestFetchToTheEnd(t *testing.T) {
 
 // TestFetchOfLimits fetches things of MaxThing bytes, one of them of MaxPieces pieces.
 func TestFetchOfLimits(t *testing.T) {
-	blocks := ""
-	for i := range impl.MaxPieces {
-		blocks += block(i + 1)
-	}
+	blocks := greatThing()
 	for _, text := range []string{blocks, drawn(9, impl.MaxThing, allBytes()), strings.Repeat(block(4), impl.MaxPieces)} {
 		if len(text) != impl.MaxThing {
 			t.Fatalf("%d bytes", len(text))
